@@ -52,8 +52,8 @@ func irregularPonds() [][][]int {
 		mixedPond(2, impl.MaxSide, 8),
 		mixedPond(impl.MaxSide, 3, 4),
 		mixedPond(impl.MaxSide, impl.MaxSide, 3),
-		evenPond(impl.MaxSide, impl.MaxSide, 0),
-		evenPond(impl.MaxSide, impl.MaxSide, impl.MaxThick),
+		evenGrid(impl.MaxSide, impl.MaxSide, 0),
+		evenGrid(impl.MaxSide, impl.MaxSide, impl.MaxThick),
 		chessPond(impl.MaxSide, impl.MaxSide),
 	}
 }
@@ -61,7 +61,7 @@ func irregularPonds() [][][]int {
 // mixedPond returns a pond of open water and of thin and thick ice that looks irregular.
 func mixedPond(rows int, columns int, seed int) [][]int {
 	kinds := []int{0, 30, 50, 50, 60, 60, 80, 999}
-	p := evenPond(rows, columns, 0)
+	p := evenGrid(rows, columns, 0)
 	for y := range p {
 		for x, kind := range spread(columns, seed+y*y, 0, len(kinds)-1) {
 			p[y][x] = kinds[kind]
@@ -70,18 +70,9 @@ func mixedPond(rows int, columns int, seed int) [][]int {
 	return p
 }
 
-// evenPond returns a pond of which all cells have the same ice.
-func evenPond(rows int, columns int, thick int) [][]int {
-	p := make([][]int, rows)
-	for y := range p {
-		p[y] = repeated(thick, columns)
-	}
-	return p
-}
-
 // chessPond returns a pond in which no two cells with ice are beside each other.
 func chessPond(rows int, columns int) [][]int {
-	p := evenPond(rows, columns, 0)
+	p := evenGrid(rows, columns, 0)
 	for y := range p {
 		for x := y % 2; x < columns; x += 2 {
 			p[y][x] = 60
@@ -102,10 +93,10 @@ func badPonds() [][][]int {
 		{{1, 2}, {1}},
 		{{1, 2}, {1, 2}, {}},
 		{{}, {1}},
-		evenPond(impl.MaxSide+1, 1, 50),
-		evenPond(1, impl.MaxSide+1, 50),
-		evenPond(impl.MaxSide+1, impl.MaxSide, 50),
-		evenPond(impl.MaxSide, impl.MaxSide+1, 50),
+		evenGrid(impl.MaxSide+1, 1, 50),
+		evenGrid(1, impl.MaxSide+1, 50),
+		evenGrid(impl.MaxSide+1, impl.MaxSide, 50),
+		evenGrid(impl.MaxSide, impl.MaxSide+1, 50),
 		{{-1}},
 		{{impl.MaxThick + 1}},
 		{{0, 50}, {50, -1}},
@@ -115,23 +106,9 @@ func badPonds() [][][]int {
 	}
 }
 
-// badCells returns numbers that are no cells of a pond.
-func badCells(p [][]int) []int {
-	return []int{-1, countCells(p), countCells(p) + 1, -countCells(p), greatestInt, leastInt}
-}
-
 // sampleLoads returns loads, ascending, with those that are none, those of the ice of the sample ponds and their neighbours.
 func sampleLoads() []int {
 	return []int{leastInt, -1, 0, 1, 81, 900, 2499, 2500, 2501, 3600, 3601, 6400, impl.MaxLoad, impl.MaxMass, impl.MaxMass + 1, greatestInt}
-}
-
-// countCells returns the number of cells of a pond.
-func countCells(p [][]int) int {
-	count := 0
-	for _, row := range p {
-		count += len(row)
-	}
-	return count
 }
 
 // someCells returns all cells of a small pond, and the first, the last and some others of a large one.
@@ -147,14 +124,9 @@ func someCells(p [][]int) []int {
 	return cells
 }
 
-// thickOfCell returns the thickness of ice at a cell.
-func thickOfCell(p [][]int, cell int) int {
-	return p[cell/len(p[0])][cell%len(p[0])]
-}
-
 // riskOfCell returns the risk of a cell.
 func riskOfCell(p [][]int, cell int) int {
-	return 1 + 200/(1+thickOfCell(p, cell))
+	return 1 + 200/(1+numberAt(p, cell))
 }
 
 // areBeside reports whether a step leads from one cell to another one.
@@ -172,37 +144,4 @@ func cellsNextTo(p [][]int, cell int) []int {
 		}
 	}
 	return cells
-}
-
-// turnedPond returns a pond with rows and columns exchanged.
-func turnedPond(p [][]int) [][]int {
-	turned := evenPond(len(p[0]), len(p), 0)
-	for y := range turned {
-		for x := range turned[y] {
-			turned[y][x] = p[x][y]
-		}
-	}
-	return turned
-}
-
-// samePond reports whether two ponds have the same rows.
-func samePond(a [][]int, b [][]int) bool {
-	if len(a) != len(b) {
-		return false
-	}
-	for y := range a {
-		if !sameInts(a[y], b[y]) {
-			return false
-		}
-	}
-	return true
-}
-
-// pondCopy returns the same pond in new memory.
-func pondCopy(p [][]int) [][]int {
-	out := make([][]int, len(p))
-	for y := range p {
-		out[y] = copyInts(p[y])
-	}
-	return out
 }

@@ -15,7 +15,7 @@ func TestPondConstants(t *testing.T) {
 func TestValidPondEdges(t *testing.T) {
 	for _, p := range [][][]int{
 		{{0}}, {{impl.MaxThick}}, {{0, impl.MaxThick}}, {{impl.MaxThick}, {0}},
-		evenPond(1, impl.MaxSide, 50), evenPond(impl.MaxSide, 1, 50), evenPond(impl.MaxSide, impl.MaxSide, impl.MaxThick),
+		evenGrid(1, impl.MaxSide, 50), evenGrid(impl.MaxSide, 1, 50), evenGrid(impl.MaxSide, impl.MaxSide, impl.MaxThick),
 	} {
 		if !impl.ValidPond(p) {
 			t.Errorf("ValidPond(%v) is false", p)
@@ -87,10 +87,10 @@ func checkFields(t *testing.T, p [][]int, load int, wantFields []int, wantSizes 
 
 func TestFieldsOfTheLargestPonds(t *testing.T) {
 	cells := impl.MaxSide * impl.MaxSide
-	full := evenPond(impl.MaxSide, impl.MaxSide, impl.MaxThick)
+	full := evenGrid(impl.MaxSide, impl.MaxSide, impl.MaxThick)
 	checkFields(t, full, impl.MaxMass, repeated(0, cells), []int{81})
 	checkFields(t, full, impl.MaxMass+1, repeated(-1, cells), nil)
-	checkFields(t, evenPond(impl.MaxSide, impl.MaxSide, 0), 1, repeated(-1, cells), nil)
+	checkFields(t, evenGrid(impl.MaxSide, impl.MaxSide, 0), 1, repeated(-1, cells), nil)
 	if got := impl.FieldSizes(chessPond(impl.MaxSide, impl.MaxSide), 3600); !sameInts(got, repeated(1, 41)) {
 		t.Errorf("FieldSizes of cells apart = %v", got)
 	}
@@ -107,7 +107,7 @@ func TestNarrowsInARow(t *testing.T) {
 	checkNarrowsAre(t, [][]int{{0, 0, 0}}, -1, 1)
 	checkNarrowsAre(t, [][]int{{0, 0, 0}}, 1)
 	checkNarrowsAre(t, [][]int{{9}, {9}, {9}, {9}}, 1, 1, 2)
-	checkNarrowsAre(t, evenPond(1, impl.MaxSide, 9), 1, 1, 2, 3, 4, 5, 6, 7)
+	checkNarrowsAre(t, evenGrid(1, impl.MaxSide, 9), 1, 1, 2, 3, 4, 5, 6, 7)
 	checkNarrowsAre(t, [][]int{{9, 9, 9, 0, 9, 9, 9, 0, 9}}, 1, 1, 5)
 }
 
@@ -125,7 +125,7 @@ func TestNarrowsInRings(t *testing.T) {
 	checkNarrowsAre(t, [][]int{{9, 9, 9}, {9, 0, 0}, {9, 9, 9}}, 1, 0, 1, 3, 6, 7)
 	checkNarrowsAre(t, onePond(), 2500, 1, 4, 5)
 	checkNarrowsAre(t, chessPond(impl.MaxSide, impl.MaxSide), 1)
-	checkNarrowsAre(t, evenPond(impl.MaxSide, impl.MaxSide, 9), 1)
+	checkNarrowsAre(t, evenGrid(impl.MaxSide, impl.MaxSide, 9), 1)
 }
 
 func checkNarrowsAre(t *testing.T, p [][]int, load int, want ...int) {
@@ -185,7 +185,7 @@ func TestWayToEdges(t *testing.T) {
 	checkWayIs(t, onePond(), 901, 2, 5)
 	checkWayIs(t, onePond(), 900, 2, 5, 2, 5)
 	checkWayIs(t, onePond(), impl.MaxMass+1, 0, 8)
-	checkWayIs(t, evenPond(1, impl.MaxSide, 50), 2500, 7, 2, 7, 6, 5, 4, 3, 2)
+	checkWayIs(t, evenGrid(1, impl.MaxSide, 50), 2500, 7, 2, 7, 6, 5, 4, 3, 2)
 }
 
 func TestWayToTakesTheSaferWay(t *testing.T) {
@@ -199,7 +199,7 @@ func TestWayToTakesTheSaferWay(t *testing.T) {
 }
 
 func TestWayToOfEqualRisks(t *testing.T) {
-	square := evenPond(3, 3, 50)
+	square := evenGrid(3, 3, 50)
 	checkWayIs(t, [][]int{{50, 50}, {50, 50}}, 1, 0, 3, 0, 1, 3)
 	checkWayIs(t, [][]int{{50, 50}, {50, 50}}, 1, 3, 0, 3, 1, 0)
 	checkWayIs(t, square, 1, 0, 8, 0, 1, 2, 5, 8)
@@ -210,7 +210,7 @@ func TestWayToOfEqualRisks(t *testing.T) {
 	checkWayIs(t, square, 1, 3, 5, 3, 4, 5)
 	checkWayIs(t, ringPond(), 1, 3, 5, 3, 0, 1, 2, 5)
 	checkWayIs(t, ringPond(), 1, 1, 7, 1, 0, 3, 6, 7)
-	checkWayIs(t, evenPond(2, 2, 0), -1, 2, 1, 2, 0, 1)
+	checkWayIs(t, evenGrid(2, 2, 0), -1, 2, 1, 2, 0, 1)
 }
 
 func checkWayIs(t *testing.T, p [][]int, load int, from int, to int, want ...int) {
@@ -277,7 +277,7 @@ func TestGreatestLoadOfTheThickestIce(t *testing.T) {
 	checkGreatest(t, [][]int{{impl.MaxThick}}, 0, 0, impl.MaxLoad)
 	checkGreatest(t, [][]int{{impl.MaxThick, 949, 950}}, 0, 2, impl.MaxLoad)
 	checkGreatest(t, [][]int{{impl.MaxThick, 948, 950}}, 0, 2, 898704)
-	checkGreatest(t, evenPond(impl.MaxSide, impl.MaxSide, impl.MaxThick), 0, 80, impl.MaxLoad)
+	checkGreatest(t, evenGrid(impl.MaxSide, impl.MaxSide, impl.MaxThick), 0, 80, impl.MaxLoad)
 }
 
 func checkGreatest(t *testing.T, p [][]int, from int, to int, want int) {
@@ -300,12 +300,12 @@ func TestGrowPondEdges(t *testing.T) {
 	// The mass between two hours need not be a square.
 	checkGrown(t, [][]int{{0}}, []int{-50, -50}, [][]int{{22}})
 	checkGrown(t, [][]int{{0}}, []int{-50, -50, 20}, [][]int{{21}})
-	full := evenPond(impl.MaxSide, impl.MaxSide, 0)
-	checkGrown(t, full, []int{-1}, evenPond(impl.MaxSide, impl.MaxSide, 2))
+	full := evenGrid(impl.MaxSide, impl.MaxSide, 0)
+	checkGrown(t, full, []int{-1}, evenGrid(impl.MaxSide, impl.MaxSide, 2))
 }
 
 func checkGrown(t *testing.T, p [][]int, temps []int, want [][]int) {
-	if got := impl.GrowPond(p, temps); !samePond(got, want) {
+	if got := impl.GrowPond(p, temps); !sameGrid(got, want) {
 		t.Errorf("GrowPond(%v, %v) = %v, not %v", p, temps, got, want)
 	}
 }
@@ -323,7 +323,7 @@ func TestCutCellEdges(t *testing.T) {
 }
 
 func checkCut(t *testing.T, p [][]int, cell int, want [][]int) {
-	if got := impl.CutCell(p, cell); !samePond(got, want) {
+	if got := impl.CutCell(p, cell); !sameGrid(got, want) {
 		t.Errorf("CutCell(%v, %d) = %v, not %v", p, cell, got, want)
 	}
 }

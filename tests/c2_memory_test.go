@@ -24,12 +24,12 @@ func callPond(p [][]int, load int, cell int, temps []int) {
 func TestPondWritesIntoNoArgument(t *testing.T) {
 	temps := []int{-50, 20, 400}
 	for _, p := range append(samplePonds(), badPonds()...) {
-		before := pondCopy(p)
+		before := gridCopy(p)
 		for _, load := range []int{0, 81, 2500} {
 			callPond(p, load, countCells(p)-1, temps)
 			callPond(p, load, countCells(p)/2, temps)
 		}
-		if !samePond(p, before) || !sameInts(temps, []int{-50, 20, 400}) {
+		if !sameGrid(p, before) || !sameInts(temps, []int{-50, 20, 400}) {
 			t.Fatalf("%v became %v, or the hours %v", before, p, temps)
 		}
 	}
@@ -52,10 +52,10 @@ func TestPondWritesBehindNoArgument(t *testing.T) {
 	callPond(rows[:2], 2500, 3, hours[:2])
 	callPond(rows[:2], 0, 0, hours[:0])
 	callPond(rows[:1], 2500, 1, hours[:2])
-	if !samePond(whole, pondWithin()) || !sameInts(hours, []int{-50, -50, 77, 78}) {
+	if !sameGrid(whole, pondWithin()) || !sameInts(hours, []int{-50, -50, 77, 78}) {
 		t.Errorf("behind the arguments there is %v and %v", whole, hours)
 	}
-	if !samePond(rows, cutRows(pondWithin())) {
+	if !sameGrid(rows, cutRows(pondWithin())) {
 		t.Errorf("the rows became %v", rows)
 	}
 }
@@ -71,7 +71,7 @@ func TestPondListsAreNewMemory(t *testing.T) {
 	first := impl.SafeCells(p, 2500)
 	second := impl.SafeCells(p, 2500)
 	first[0] = false
-	if !second[0] || !samePond(p, onePond()) {
+	if !second[0] || !sameGrid(p, onePond()) {
 		t.Error("two results of SafeCells share memory")
 	}
 }
@@ -106,7 +106,7 @@ func TestPondsThatAreReturnedAreNewMemory(t *testing.T) {
 		longer := append(got, nil)
 		longer[0] = nil
 		got[0] = nil
-		if !samePond(whole, pondWithin()) || !samePond(rows, cutRows(pondWithin())) {
+		if !sameGrid(whole, pondWithin()) || !sameGrid(rows, cutRows(pondWithin())) {
 			t.Fatalf("a result shares memory with the argument: %v, %v", whole, rows)
 		}
 	}
@@ -115,7 +115,7 @@ func TestPondsThatAreReturnedAreNewMemory(t *testing.T) {
 // checkRowsAreApart writes into each row, and behind it, and checks that the other rows stay.
 func checkRowsAreApart(t *testing.T, p [][]int) {
 	for y := range p {
-		before := pondCopy(p)
+		before := gridCopy(p)
 		overwrite(p[y])
 		for other := range p {
 			if other != y && !sameInts(p[other], before[other]) {
@@ -144,7 +144,7 @@ func TestPondKeepsNoArgument(t *testing.T) {
 	cut := impl.CutCell(p, 4)
 	p[0][0] = 0
 	temps[0] = 400
-	if !samePond(grown, impl.GrowPond(onePond(), []int{-50})) || !samePond(cut, [][]int{{60, 60, 30}, {0, 0, 60}, {60, 0, 80}}) {
+	if !sameGrid(grown, impl.GrowPond(onePond(), []int{-50})) || !sameGrid(cut, [][]int{{60, 60, 30}, {0, 0, 60}, {60, 0, 80}}) {
 		t.Errorf("an argument is kept: %v, %v", grown, cut)
 	}
 	if got := impl.FieldSizes(p, 2500); !sameInts(got, []int{4, 1}) {

@@ -8,7 +8,7 @@ import (
 
 func TestPromise14PondsCanBeTurned(t *testing.T) {
 	for _, p := range samplePonds() {
-		if !impl.ValidPond(p) || !impl.ValidPond(turnedPond(p)) {
+		if !impl.ValidPond(p) || !impl.ValidPond(turnedGrid(p)) {
 			t.Errorf("ValidPond of %v, or of the turned pond", p)
 		}
 		for _, row := range p {
@@ -127,7 +127,7 @@ func TestPromise17FieldsHaveAllSafeCells(t *testing.T) {
 			if sum != countTrue(impl.SafeCells(p, load)) {
 				t.Errorf("FieldSizes(%v, %d) = %v has not all safe cells", p, load, sizes)
 			}
-			if turned := impl.FieldSizes(turnedPond(p), load); !sameTogether(sizes, turned) {
+			if turned := impl.FieldSizes(turnedGrid(p), load); !sameTogether(sizes, turned) {
 				t.Errorf("FieldSizes(%v, %d) = %v, but %v if it is turned", p, load, sizes, turned)
 			}
 		}
@@ -211,7 +211,7 @@ func checkCellsAscend(t *testing.T, p [][]int, cells []int) {
 
 func TestPromise18NarrowsOfLoadsThatAllCellsBear(t *testing.T) {
 	for _, p := range samplePonds() {
-		want := impl.NarrowsOf(evenPond(len(p), len(p[0]), 9), 81)
+		want := impl.NarrowsOf(evenGrid(len(p), len(p[0]), 9), 81)
 		for _, load := range []int{0, -1, leastInt} {
 			if got := impl.NarrowsOf(p, load); !sameInts(got, want) {
 				t.Errorf("NarrowsOf(%v, %d) = %v, not %v", p, load, got, want)
@@ -432,12 +432,12 @@ func TestPromise25PondsGrowCellByCell(t *testing.T) {
 	for _, p := range samplePonds() {
 		for _, temps := range sampleWeathers() {
 			grown := impl.GrowPond(p, temps)
-			if turned := impl.GrowPond(turnedPond(p), temps); !samePond(turned, turnedPond(grown)) {
+			if turned := impl.GrowPond(turnedGrid(p), temps); !sameGrid(turned, turnedGrid(grown)) {
 				t.Errorf("GrowPond of %v turned, %v, is %v", p, temps, turned)
 			}
 			for cell := 0; cell < countCells(p); cell++ {
-				thick := thickOfCell(p, cell)
-				if want := impl.ThickOf(impl.RunIce(thick*thick, temps)); thickOfCell(grown, cell) != want {
+				thick := numberAt(p, cell)
+				if want := impl.ThickOf(impl.RunIce(thick*thick, temps)); numberAt(grown, cell) != want {
 					t.Errorf("GrowPond(%v, %v) = %v, not %d at %d", p, temps, grown, want, cell)
 				}
 			}
@@ -450,7 +450,7 @@ func TestPromise25FrostAloneMakesNoCellThinner(t *testing.T) {
 		for _, temps := range sampleFrosts() {
 			grown := impl.GrowPond(p, temps)
 			for cell := 0; cell < countCells(p); cell++ {
-				if thickOfCell(grown, cell) < thickOfCell(p, cell) {
+				if numberAt(grown, cell) < numberAt(p, cell) {
 					t.Errorf("GrowPond(%v, %v) = %v is thinner at %d", p, temps, grown, cell)
 				}
 			}
@@ -501,12 +501,12 @@ func TestPromise27CutCellsAreOpen(t *testing.T) {
 	for _, p := range samplePonds() {
 		for cell := 0; cell < countCells(p); cell++ {
 			cut := impl.CutCell(p, cell)
-			want := pondCopy(p)
+			want := gridCopy(p)
 			want[cell/len(p[0])][cell%len(p[0])] = 0
-			if !samePond(cut, want) {
+			if !sameGrid(cut, want) {
 				t.Errorf("CutCell(%v, %d) = %v", p, cell, cut)
 			}
-			if twice := impl.CutCell(cut, cell); !samePond(twice, cut) {
+			if twice := impl.CutCell(cut, cell); !sameGrid(twice, cut) {
 				t.Errorf("CutCell(%v, %d) = %v", cut, cell, twice)
 			}
 		}

@@ -68,3 +68,64 @@ func absolute(n int) int {
 	}
 	return n
 }
+
+// evenGrid returns a grid, of a pond or of a heap, of which all cells have the same number.
+func evenGrid(rows int, columns int, number int) [][]int {
+	g := make([][]int, rows)
+	for y := range g {
+		g[y] = repeated(number, columns)
+	}
+	return g
+}
+
+// badCells returns numbers that are no cells of a grid.
+func badCells(g [][]int) []int {
+	return []int{-1, countCells(g), countCells(g) + 1, -countCells(g), greatestInt, leastInt}
+}
+
+// countCells returns the number of cells of a grid.
+func countCells(g [][]int) int {
+	count := 0
+	for _, row := range g {
+		count += len(row)
+	}
+	return count
+}
+
+// numberAt returns the number of a grid at a cell.
+func numberAt(g [][]int, cell int) int {
+	return g[cell/len(g[0])][cell%len(g[0])]
+}
+
+// turnedGrid returns a grid with rows and columns exchanged.
+func turnedGrid(g [][]int) [][]int {
+	turned := evenGrid(len(g[0]), len(g), 0)
+	for y := range turned {
+		for x := range turned[y] {
+			turned[y][x] = g[x][y]
+		}
+	}
+	return turned
+}
+
+// sameGrid reports whether two grids have the same rows.
+func sameGrid(a [][]int, b [][]int) bool {
+	if len(a) != len(b) {
+		return false
+	}
+	for y := range a {
+		if !sameInts(a[y], b[y]) {
+			return false
+		}
+	}
+	return true
+}
+
+// gridCopy returns the same grid in new memory.
+func gridCopy(g [][]int) [][]int {
+	out := make([][]int, len(g))
+	for y := range g {
+		out[y] = copyInts(g[y])
+	}
+	return out
+}
