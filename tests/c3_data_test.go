@@ -333,7 +333,7 @@ func orderWithout(order []int, index int) []int {
 	return out
 }
 
-// allOrders returns all orders of the indices of n cakes.
+// allOrders returns all orders of the indices of n cakes or customers.
 func allOrders(n int) [][]int {
 	if n == 0 {
 		return [][]int{{}}
@@ -348,7 +348,7 @@ func allOrders(n int) [][]int {
 	return orders
 }
 
-// countTo returns the indices of n cakes, ascending.
+// countTo returns the indices of n cakes or customers, ascending.
 func countTo(n int) []int {
 	out := make([]int, n)
 	for i := range out {
